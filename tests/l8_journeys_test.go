@@ -803,8 +803,13 @@ func (r *random2) chain8() impl.Network {
 // can come from these with a change, so that many journeys need several legs, are just made or
 // just missed, and arrive at the same time.
 func (r *random2) linked8(change int) impl.Timetable {
-	t := impl.Timetable{Network: r.chain8()}
-	starts := []impl.Trip{{Start: []int{20, 600, 1400}[r.below(3)]}}
+	return r.linkedFrom8(r.chain8(), []int{20, 600, 1400}[r.below(3)], change)
+}
+
+// linkedFrom8 returns such a timetable of n, of which the first trip on line 0 has this Start.
+func (r *random2) linkedFrom8(n impl.Network, first int, change int) impl.Timetable {
+	t := impl.Timetable{Network: n}
+	starts := []impl.Trip{{Start: first}}
 	for range 60 {
 		x := starts[r.below(len(starts))]
 		times := stopTimes5(t.Network, x)
@@ -1068,39 +1073,53 @@ func resultsOfLegs8(x sample8, legs []impl.Leg) string {
 	return s
 }
 
-func TestJourneysDoNotModifyTimetables(t *testing.T) {
-	for _, x := range samples8(25) {
+// checkTimetablesKept8 checks that functions neither modify timetables nor read beyond their ends
+// nor keep anything; results calls them and changes what they return.
+func checkTimetablesKept8(t *testing.T, list []sample8, results func(sample8) string) {
+	t.Helper()
+	for _, x := range list {
 		roomy := roomy5(x.t)
 		before := wide5(roomy)
-		got := results8(sample8{roomy, x.change})
+		got := results(sample8{roomy, x.change})
 		if after := wide5(roomy); !reflect.DeepEqual(after, before) {
 			t.Fatal("an argument was", before, "and is", after)
 		}
 		for range 2 {
-			if got != results8(sample8{clone5(x.t), x.change}) {
+			if got != results(sample8{clone5(x.t), x.change}) {
 				t.Fatal("other results for", x)
 			}
 		}
 	}
 }
 
-func TestJourneysAreNotModifiedAndNotReadBeyondTheEnd(t *testing.T) {
-	for _, x := range samples8(40) {
+// checkLegsKept8 checks the same of functions that take legs, with one in step of the first
+// journeys of every timetable, and with its beginnings.
+func checkLegsKept8(t *testing.T, list []sample8, step int, first int, results func(sample8, []impl.Leg) string) {
+	t.Helper()
+	for _, x := range list {
 		seen := 0
 		allJourneys8(x.t, x.change, func(journey []impl.Leg) {
-			if seen++; seen%17 != 0 || seen > 10000 {
+			if seen++; seen%step != 0 || seen > first {
 				return
 			}
 			for count := range len(journey) + 1 {
 				list := slices.Clone(journey)
-				got := resultsOfLegs8(x, list[:count])
+				got := results(x, list[:count])
 				if !slices.Equal(list, journey) {
 					t.Fatal("an argument was", journey, "and is", list)
 				}
-				if got != resultsOfLegs8(x, slices.Clone(journey[:count])) {
+				if got != results(x, slices.Clone(journey[:count])) {
 					t.Fatal("other results for", journey[:count], "in", x)
 				}
 			}
 		})
 	}
+}
+
+func TestJourneysDoNotModifyTimetables(t *testing.T) {
+	checkTimetablesKept8(t, samples8(25), results8)
+}
+
+func TestJourneysAreNotModifiedAndNotReadBeyondTheEnd(t *testing.T) {
+	checkLegsKept8(t, samples8(40), 17, 10000, resultsOfLegs8)
 }
